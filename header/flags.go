@@ -8,6 +8,7 @@ const (
 	most        = 15 // of an Opcode, and of an Rcode
 )
 
+// The bits from the fourth on, one above the other. bitNever has a name so that it can be refused; the four without one are the Opcode's.
 const (
 	bitCD = 1 << (iota + 4)
 	bitAD
