@@ -124,18 +124,10 @@ func TestUnder(t *testing.T) {
 // Beyond a cut all names, of any depth, are so with the same Node, whatever stands there.
 func TestBeyondDeep(t *testing.T) {
 	z := tidy("a.", with("x.y.b.a. A 10.0.0.3", "*.b.a. A 10.0.0.4", "*.y.b.a. AAAA ::1")...)
-	for _, l := range []string{"x", "y", "*", "ns", "q"} {
-		n := of("B.a.")
-		for len(n) < 127 {
+	for _, l := range []string{"y", "*", "ns", "q"} {
+		for n := of("B.a."); name.Check(n) == api.OK; n = slices.Concat(api.Name{l}, n) {
 			finds(t, z, n, api.Spot{Kind: api.Beyond, Node: of("b.a.")})
 			all(t, z, n)
-			n = slices.Concat(api.Name{l}, n)
-			if l == "x" && len(n) == 3 {
-				n[0] = "y"
-			}
-			if name.Size(n) > 252 {
-				break
-			}
 		}
 	}
 }
